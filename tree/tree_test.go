@@ -150,8 +150,8 @@ func TestRootOfFew(t *testing.T) {
 	is(t, "P6.1: Root(a, b, c)", tree.Root([][]byte{a, b, c}), tree.Node(tree.Node(a, b), c))
 }
 
-// P6.1: roots that other programs of RFC 6962 tell of eight texts and of their beginnings.
-func TestRootsToldElsewhere(t *testing.T) {
+// P6.1: roots of eight texts and of their beginnings, worked out by another program.
+func TestRootsWorkedOutElsewhere(t *testing.T) {
 	texts := []string{"", "00", "10", "2021", "3031", "40414243", "5051525354555657", "606162636465666768696a6b6c6d6e6f"}
 	roots := []string{
 		"e3b0c44298fc1c149afbf4c8996fb92427ae41e4649b934ca495991b7852b855",

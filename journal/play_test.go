@@ -42,7 +42,7 @@ func TestPowerGoesAtEachCall(t *testing.T) {
 	behind := []step{{kind: doAdd, rec: "next"}, {kind: doPut, rec: "last"}, {kind: doSync}, {kind: doOpen}}
 	eachRow(steps, 3, func(row []step) bool {
 		for n := range 8 {
-			for keep := -1; keep < 36; keep++ {
+			for keep := -1; keep < 47; keep++ {
 				b := begun(t, "P13.3", 45)
 				run := append([]step{{kind: doPut, rec: "0"}, {kind: doArm, n: n}}, row...)
 				if !b.plays(append(run, step{kind: doCrash, n: keep})...) || !b.plays(behind...) {
@@ -97,18 +97,23 @@ func longRun(r *rand.Rand, n int) []step {
 	return run
 }
 
-// P13.3: long runs, with power that goes at each of the disk's calls, and a Crash with each keep; behind it the journal goes on with the same run.
+// P13.3: long runs, with power that goes at each of the disk's calls, and a Crash with each keep, from -1 to beyond all; behind some of them the journal goes on with the same run.
 func TestPowerGoesAtEachCallOfALongRun(t *testing.T) {
-	run := longRun(rand.New(rand.NewSource(3)), 25)
-	for n := range 2*len(run) + 2 {
-		for keep := -1; keep < 90; keep++ {
-			b := begun(t, fmt.Sprintf("P13.3: Arm(%d), Crash(%d)", n, keep), 9999)
-			whole := append([]step{{kind: doArm, n: n}}, run...)
-			if !b.plays(append(whole, step{kind: doCrash, n: keep})...) {
-				return
-			}
-			if keep%10 == 0 && !b.plays(append(run, step{kind: doCrash})...) {
-				return
+	for seed := range int64(4) {
+		run := longRun(rand.New(rand.NewSource(seed)), 25)
+		for n := range 2*len(run) + 2 {
+			for keep, all := -1, 0; keep < all+3; keep++ {
+				b := begun(t, fmt.Sprintf("P13.3: run %d, Arm(%d), Crash(%d)", seed, n, keep), 9999)
+				if !b.plays(step{kind: doArm, n: n}) || !b.plays(run...) {
+					return
+				}
+				all = size(b.a.loose)
+				if !b.plays(step{kind: doCrash, n: keep}) {
+					return
+				}
+				if keep%10 == 0 && (!b.plays(run...) || !b.plays(step{kind: doCrash})) {
+					return
+				}
 			}
 		}
 	}
